@@ -48,7 +48,7 @@ func checkNeeds(needs []string) error {
 
 func checkWords(words []int) error {
 	for _, n := range words {
-		if !isWord(n) {
+		if !IsWord(n) {
 			return api.ErrBound
 		}
 	}
@@ -84,7 +84,7 @@ func checkTies(ties []api.Tie, words int) error {
 
 // checkTie behind the one whose At is ahead, in an object of so many words.
 func checkTie(t api.Tie, ahead, words int) error {
-	if !isPlace(t.At, words) || !isWord(t.Add) {
+	if !isPlace(t.At, words) || !IsWord(t.Add) {
 		return api.ErrBound
 	}
 	if t.At <= ahead {
@@ -102,7 +102,8 @@ func checkTie(t api.Tie, ahead, words int) error {
 	return api.ErrShape
 }
 
-func isWord(n int) bool { return n >= -api.MaxWord-1 && n <= api.MaxWord }
+// IsWord: is that number a word?
+func IsWord(n int) bool { return n >= -api.MaxWord-1 && n <= api.MaxWord }
 
 // isPlace: is there a word at that place, of so many?
 func isPlace(at, words int) bool { return at >= 0 && at < words }
