@@ -208,6 +208,31 @@ func TestM1Refused(t *testing.T) {
 	has(t, over(t, f, d), "app libc far")
 }
 
+// TestGet: what is kept of a root, fresh or not; what comes out is the caller's.
+func TestGet(t *testing.T) {
+	f, d := two(t), formatted(t)
+	l := over(t, f, d)
+	gets := func(root, want string) {
+		t.Helper()
+		e, ok := l.Get(root)
+		if got := fmt.Sprint(e, ok); got != want {
+			t.Errorf("Get(%q): %s, want %s", root, got, want)
+		}
+		for i := range e.Parts {
+			e.Parts[i].Stamp = 77
+		}
+	}
+	gets("libc", "{ [] []} false")
+	builds(t, l, "libc", nil)
+	gets("libc", "{libc [{libc 1 0}] [{0 0 5}]} true")
+	writes(t, f, "libc", "word 1\n")
+	gets("libc", "{libc [{libc 1 0}] [{0 0 5}]} true")
+	gets("app", "{ [] []} false")
+	gets("", "{ [] []} false")
+	drops(t, l, "libc", nil)
+	gets("libc", "{ [] []} false")
+}
+
 // TestM1Stale: an entry that was there, of which a file is gone, is not built anew, and stays.
 func TestM1Stale(t *testing.T) {
 	f := two(t)
